@@ -2,6 +2,7 @@ package tests
 
 import (
 	"math/rand"
+	"slices"
 
 	"loop.example/buildroads/impl"
 )
@@ -104,4 +105,79 @@ func manyTasks(each int) []impl.Task {
 		}
 	}
 	return list
+}
+
+// read returns the task whose text is s, which is one.
+func read(s string) impl.Task {
+	t, ok := impl.TaskRead(s)
+	if !ok {
+		panic("no task: " + s)
+	}
+	return t
+}
+
+// plainValue returns the value of a key by a list of values of keys.
+func plainValue(values []int, key int) int {
+	if key >= len(values) {
+		return 0
+	}
+	return values[key]
+}
+
+// plainFetches returns the value of a task and what it fetches, as the tables of the chapters tell.
+func plainFetches(t impl.Task, values []int) (int, []impl.Fetch) {
+	fetch := func(key int, ahead []impl.Fetch) (int, []impl.Fetch) {
+		v := plainValue(values, key)
+		return v, append(ahead, impl.Fetch{Key: key, Value: v})
+	}
+	switch t.Kind {
+	case impl.TaskNum:
+		return t.N, nil
+	case impl.TaskGet:
+		return fetch(t.N, nil)
+	}
+	value, list := plainFetches(t.Parts[0], values)
+	switch t.Kind {
+	case impl.TaskAt:
+		return fetch((t.N+value)%10, list)
+	case impl.TaskIf:
+		next := t.Parts[2]
+		if value != 0 {
+			next = t.Parts[1]
+		}
+		second, more := plainFetches(next, values)
+		return second, append(list, more...)
+	}
+	second, more := plainFetches(t.Parts[1], values)
+	if t.Kind == impl.TaskAdd {
+		return (value + second) % 97, append(list, more...)
+	}
+	return value * second % 97, append(list, more...)
+}
+
+// firstKeys returns the keys of fetches, each once, where it comes first.
+func firstKeys(list []impl.Fetch) []int {
+	var keys []int
+	for _, f := range list {
+		if !slices.Contains(keys, f.Key) {
+			keys = append(keys, f.Key)
+		}
+	}
+	return keys
+}
+
+// randomValues makes up to ten values, of which many are 0, few, or 96.
+func randomValues(r *rand.Rand) []int {
+	values := make([]int, r.Intn(impl.KeysMost+1))
+	for i := range values {
+		switch r.Intn(4) {
+		case 0:
+			values[i] = r.Intn(3)
+		case 1:
+			values[i] = impl.ValueTop - r.Intn(3)
+		case 2:
+			values[i] = r.Intn(impl.ValueTop + 1)
+		}
+	}
+	return values
 }

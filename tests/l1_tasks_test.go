@@ -126,33 +126,6 @@ func plainText(t impl.Task) (string, int) {
 	return head + ")", nodes
 }
 
-// plainUses returns the value of a task and the keys that it fetches, in order, if all keys have one value.
-func plainUses(t impl.Task, every int) (int, []int) {
-	switch t.Kind {
-	case impl.TaskNum:
-		return t.N, nil
-	case impl.TaskGet:
-		return every, []int{t.N}
-	}
-	value, uses := plainUses(t.Parts[0], every)
-	switch t.Kind {
-	case impl.TaskAt:
-		return every, append(uses, (t.N+value)%10)
-	case impl.TaskIf:
-		next := t.Parts[2]
-		if value != 0 {
-			next = t.Parts[1]
-		}
-		second, more := plainUses(next, every)
-		return second, append(uses, more...)
-	}
-	second, more := plainUses(t.Parts[1], every)
-	if t.Kind == impl.TaskAdd {
-		return (value + second) % 97, append(uses, more...)
-	}
-	return value * second % 97, append(uses, more...)
-}
-
 func TestConstantsOfTasks(t *testing.T) {
 	got := []int{impl.KeysMost, impl.NodesMost, impl.ValueTop, impl.TaskNum, impl.TaskGet, impl.TaskAdd, impl.TaskMul, impl.TaskIf, impl.TaskAt}
 	if !slices.Equal(got, []int{10, 15, 96, 0, 1, 2, 3, 4, 5}) {
@@ -348,15 +321,14 @@ func TestPromise5(t *testing.T) {
 			continue
 		}
 		fixed++
-		_, none := plainUses(c, 0)
-		_, five := plainUses(c, 5)
-		if !slices.Equal(none, five) {
-			t.Errorf("%s is fixed, but uses %v or %v", text, none, five)
-		}
 		a, okA := impl.TaskUses(c, nil)
 		b, okB := impl.TaskUses(c, fives)
-		if okA != okB || !slices.Equal(a, b) {
-			t.Errorf("TaskUses of %s are %v, %v and %v, %v", text, a, okA, b, okB)
+		if !okA || !okB || !slices.Equal(a, b) {
+			t.Errorf("%s is fixed, but TaskUses are %v, %v and %v, %v", text, a, okA, b, okB)
+		}
+		_, none := plainFetches(c, nil)
+		if want := firstKeys(none); !slices.Equal(a, want) {
+			t.Errorf("TaskUses of %s are %v, not %v", text, a, want)
 		}
 	}
 	if fixed < 40 {
