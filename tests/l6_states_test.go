@@ -625,150 +625,6 @@ func TestPromise29(t *testing.T) {
 	}
 }
 
-// again is a build as chapter 6 tells it: st is the state so far, looks are 1 for keys that are being looked at and 2 for those that were, and deep is what the trace used that was taken or put for a key.
-type again struct {
-	s     impl.Sheet
-	way   int
-	st    impl.State
-	looks [10]int
-	deep  [10][]impl.Fetch
-	runs  []int
-	drops bool
-}
-
-// plainStep builds keys again: the build behind it, and whether it can be.
-func plainStep(s impl.Sheet, way int, st impl.State, inputs []int, keys []int) (*again, bool) {
-	a := &again{s: s, way: way, st: copyState(st)}
-	a.st.Inputs = inputsOf(s, inputs)
-	for key, made := range s.Made {
-		if !made {
-			a.st.Values[key] = inputs[key]
-			continue
-		}
-		for _, from := range plainReach(s, []int{key}) {
-			for _, in := range plainMay(s.Tasks[from]) {
-				if way == impl.WayDirty && in < len(s.Made) && !s.Made[in] && inputs[in] != st.Inputs[in] {
-					a.st.Built[key] = false
-				}
-			}
-		}
-	}
-	if way == impl.WayDeep && !plainSafe(s) {
-		return a, false
-	}
-	for _, key := range keys {
-		if _, ok := a.ask(key); !ok {
-			return a, false
-		}
-	}
-	return a, true
-}
-
-// ask returns the value of a key, and whether it can be.
-func (a *again) ask(key int) (int, bool) {
-	if key >= len(a.s.Made) {
-		return 0, true
-	}
-	if a.s.Made[key] && a.looks[key] == 0 {
-		a.looks[key] = 1
-		if !a.look(key) {
-			return 0, false
-		}
-		a.looks[key], a.st.Built[key] = 2, true
-	}
-	return a.st.Values[key], a.looks[key] != 1
-}
-
-// look looks at a made key: it is as it was, takes a value, or is run.
-func (a *again) look(key int) bool {
-	if a.way == impl.WayDirty && a.st.Built[key] {
-		return true
-	}
-	for _, x := range slices.Clone(a.st.Traces) {
-		if x.Key != key || a.way == impl.WayDirty || a.way == impl.WayVerify && !a.st.Built[key] {
-			continue
-		}
-		holds, ok := a.holds(x)
-		if !ok {
-			return false
-		}
-		if holds && a.way != impl.WayVerify {
-			a.st.Values[key], a.deep[key] = x.Value, x.Used
-		}
-		if holds {
-			return true
-		}
-		if a.way == impl.WayVerify {
-			break // it is the first one that counts
-		}
-	}
-	return a.run(key)
-}
-
-// holds reports whether a trace holds, and whether all keys that are looked at for this can be.
-func (a *again) holds(x impl.Trace) (bool, bool) {
-	if a.way == impl.WayDeep {
-		return plainHolds(x, a.st.Values), true
-	}
-	for _, f := range x.Used {
-		value, ok := a.ask(f.Key)
-		if !ok || value != f.Value {
-			return false, ok
-		}
-	}
-	return true, true
-}
-
-// run runs a key.
-func (a *again) run(key int) bool {
-	x := impl.Trace{Key: key}
-	note := func(f impl.Fetch) {
-		if !slices.Contains(x.Used, f) {
-			x.Used = append(x.Used, f)
-		}
-	}
-	value, ok := plainWalk(a.s.Tasks[key], func(from int) (int, bool) {
-		v, ok := a.ask(from)
-		if a.way != impl.WayDeep || from >= len(a.s.Made) || !a.s.Made[from] {
-			note(impl.Fetch{Key: from, Value: v})
-			return v, ok
-		}
-		for _, f := range a.deep[from] {
-			if f.Key >= len(a.s.Made) || !a.s.Made[f.Key] {
-				note(f)
-			}
-		}
-		return v, ok
-	})
-	if !ok {
-		return false
-	}
-	x.Value = value
-	a.st.Values[key], a.runs, a.deep[key] = value, append(a.runs, key), x.Used
-	a.put(x)
-	return true
-}
-
-// put puts the trace of a run where the way has it.
-func (a *again) put(x impl.Trace) {
-	switch a.way {
-	case impl.WayVerify:
-		if i := slices.IndexFunc(a.st.Traces, func(y impl.Trace) bool { return y.Key == x.Key }); i >= 0 {
-			a.st.Traces[i] = x
-			return
-		}
-		a.st.Traces = append(a.st.Traces, x)
-	case impl.WayStore, impl.WayDeep:
-		if slices.ContainsFunc(a.st.Traces, func(y impl.Trace) bool { return sameTrace(x, y) }) {
-			return
-		}
-		a.st.Traces = append(a.st.Traces, x)
-		if len(a.st.Traces) > 60 {
-			a.st.Traces, a.drops = a.st.Traces[1:], true
-		}
-	}
-}
-
 // Promise 30: if StateFits holds, it holds behind a build of all keys with inputs of noughts, by the same way, if that is told.
 func TestPromise30(t *testing.T) {
 	var told, not, run [4]int
@@ -776,18 +632,21 @@ func TestPromise30(t *testing.T) {
 		if !impl.StateFits(s, way, st) {
 			t.Errorf("StateFits of %v in %q by the way %d is false", st, impl.SheetText(s), way)
 		}
-		keys := r.Perm(len(s.Made))
-		a, ok := plainStep(s, way, st, make([]int, len(s.Made)), keys)
+		noughts, keys := make([]int, len(s.Made)), r.Perm(len(s.Made))
+		behind, runs, ok := impl.BuildStep(s, way, st, noughts, keys)
+		if _, want := plainStep(s, way, st, noughts, keys); ok != want {
+			t.Errorf("BuildStep of %v in %q by the way %d from %v is told: %v", keys, impl.SheetText(s), way, st, ok)
+		}
 		if !ok {
 			not[way]++
 			return
 		}
 		told[way]++
-		if len(a.runs) > 0 {
+		if len(runs) > 0 {
 			run[way]++
 		}
-		if !impl.StateFits(s, way, a.st) {
-			t.Errorf("StateFits of %v in %q by the way %d, behind a build of %v from %v, is false", a.st, impl.SheetText(s), way, keys, st)
+		if !impl.StateFits(s, way, behind) {
+			t.Errorf("StateFits of %v in %q by the way %d, behind a build of %v from %v, is false", behind, impl.SheetText(s), way, keys, st)
 		}
 	}
 	eachState(func(r *rand.Rand, s impl.Sheet, way int, st impl.State) {
@@ -795,11 +654,11 @@ func TestPromise30(t *testing.T) {
 		row, _ := impl.StateStart(s)
 		for range 3 {
 			keys := r.Perm(len(s.Made))
-			a, ok := plainStep(s, way, row, randomInputs(r, s), keys[:r.Intn(len(keys)+1)])
+			next, _, ok := impl.BuildStep(s, way, row, randomInputs(r, s), keys[:r.Intn(len(keys)+1)])
 			if !ok {
 				break
 			}
-			row = a.st
+			row = next
 			check(r, s, way, row)
 		}
 	})
